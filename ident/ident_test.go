@@ -320,8 +320,26 @@ func TestLessAndBoth(t *testing.T) { // P6.3: any lists, of each length
 	for _, l := range all {
 		for _, m := range all {
 			same(t, "Less", ident.Less(l, m), setTold(l, func(id api.Id) bool { return !stands(m, id) }))
-			same(t, "Both", ident.Both(l, m), setTold(l, func(id api.Id) bool { return stands(m, id) }))
+			same(t, "Both", ident.Both(l, m), setTold(append(slices.Clone(l), m...), every))
 		}
+	}
+}
+
+func TestBothOfFew(t *testing.T) { // P6.3: all ids of the one and all of the other, whether or not they share any
+	nought, one, two, three := api.Id{}, api.Id{31: 1}, api.Id{31: 2}, api.Id{31: 3}
+	for _, c := range []struct{ l, m, want []api.Id }{
+		{nil, []api.Id{nought}, []api.Id{nought}},
+		{[]api.Id{one}, nil, []api.Id{one}},
+		{[]api.Id{two, one, two}, nil, []api.Id{one, two}},
+		{[]api.Id{one}, []api.Id{one}, []api.Id{one}},
+		{[]api.Id{one}, []api.Id{two}, []api.Id{one, two}},
+		{[]api.Id{three}, []api.Id{two}, []api.Id{two, three}},
+		{[]api.Id{one, three}, []api.Id{two}, []api.Id{one, two, three}},
+		{[]api.Id{one, two}, []api.Id{two, three}, []api.Id{one, two, three}},
+		{[]api.Id{3: three, 1: one}, []api.Id{two, one, two}, []api.Id{nought, one, two, three}},
+	} {
+		same(t, "Both", ident.Both(c.l, c.m), c.want)
+		same(t, "Both the other way round", ident.Both(c.m, c.l), c.want)
 	}
 }
 
@@ -339,8 +357,16 @@ func TestPutInAndTakenAway(t *testing.T) { // P6.4
 			same(t, "With twice", ident.With(ident.With(l, id), id), ident.With(l, id))
 			same(t, "Without twice", ident.Without(ident.Without(l, id), id), ident.Without(l, id))
 		}
-		same(t, "Less and Both", ident.Set(append(ident.Less(l, m), ident.Both(l, m)...)), set)
-		same(t, "Both the other way round", ident.Both(l, m), ident.Both(m, l))
+		both := ident.Both(l, m)
+		same(t, "Both the other way round", ident.Both(m, l), both)
+		same(t, "Both of what Less leaves", ident.Both(ident.Less(l, m), m), both)
+		same(t, "Both, less one", ident.Less(both, m), ident.Less(l, m))
+		same(t, "Both, and one again", ident.Both(both, m), both)
+		one := set
+		for _, id := range m {
+			one = ident.With(one, id)
+		}
+		same(t, "Both one by one", one, both)
 		same(t, "Less itself", ident.Less(l, l), nil)
 		same(t, "Both itself", ident.Both(l, l), set)
 	}
@@ -359,9 +385,9 @@ func TestNilAndEmpty(t *testing.T) { // P3
 		same(t, "Without", ident.Without([]api.Id{id, id}, id), nil)
 		for _, m := range [][]api.Id{nil, empty, few()} {
 			same(t, "Less", ident.Less(l, m), nil)
-			same(t, "Both", ident.Both(l, m), nil)
+			same(t, "Both", ident.Both(l, m), m)
 			same(t, "Less", ident.Less(m, l), m)
-			same(t, "Both", ident.Both(m, l), nil)
+			same(t, "Both", ident.Both(m, l), m)
 		}
 	}
 }
@@ -443,7 +469,8 @@ func TestLongListsEnd(t *testing.T) { // P1
 	same(t, "up and down", ident.Set(pipe), rising[:n/2+1])
 	same(t, "alike", ident.Set(alike), alike[:1])
 	same(t, "Less", ident.Less(falling, pipe), rising[n/2+1:])
-	same(t, "Both", ident.Both(falling, pipe), rising[:n/2+1])
+	same(t, "Both", ident.Both(falling, pipe), rising)
+	same(t, "Both", ident.Both(pipe, alike), append(slices.Clone(rising[:n/2+1]), api.Id{7}))
 	same(t, "With", ident.With(falling, api.Id{7}), append(slices.Clone(rising), api.Id{7}))
 	same(t, "Without", ident.Without(falling, rising[0]), rising[1:])
 	if !ident.Is(rising) || ident.Is(falling) || ident.Is(pipe) || ident.Is(alike) || !ident.Has(falling, rising[0]) || ident.Has(falling, api.Id{7}) {
