@@ -341,6 +341,28 @@ func TestTwice(t *testing.T) { // P16.1: one that is accepted is told, and chang
 	wantDag(t, d, m, six()...)
 }
 
+func TestFirstStays(t *testing.T) { // P16.1: what Get tells is the one accepted first, to the last bit, whatever comes of its id
+	for _, l := range [][2][]api.Id{{nil, {}}, {{}, nil}} {
+		d, m := grown(t, six()...)
+		h := root(9)
+		h.Parents = l[0]
+		wantAdd(t, d, m, h)
+		first, _ := d.Get(idOf(h))
+		if (first.Parents == nil) != (l[0] == nil) {
+			t.Errorf("Get tells the Parents %#v; they were %#v", first.Parents, l[0])
+		}
+		for _, parents := range [][]api.Id{l[1], l[0], l[1], make([]api.Id, 0, 7)} {
+			again := h
+			again.Parents = parents
+			wantAdd(t, d, m, again)
+			if then, e := d.Get(idOf(h)); e != api.OK || !reflect.DeepEqual(then, first) {
+				t.Errorf("Get behind an Add with the Parents %#v: %#v; %d; it was %#v", parents, then, e, first)
+			}
+		}
+		wantDag(t, d, m, h)
+	}
+}
+
 func TestVerdicts(t *testing.T) { // P16.1: the error of all sets of parents, at all heights
 	l := six()
 	d, m := grown(t, l[:4]...)
